@@ -73,7 +73,7 @@ func otherBases() []int {
 // numbersFor returns numbers up to a greatest one: the first ones, those around powers of the base, some far apart, and the last ones.
 func numbersFor(base, most int) []int {
 	var numbers []int
-	for n := range 40 {
+	for n := range min(40, most+1) {
 		numbers = append(numbers, n, most-n)
 	}
 	for power := base; power <= most; power *= base {

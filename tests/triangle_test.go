@@ -21,7 +21,7 @@ func signOf(place int) int {
 
 // outside returns numbers that are not in 0..most: the ones just outside, and the ones furthest away.
 func outside(most int) []int {
-	return []int{-1, most + 1, -2, most + 2, -most, math.MinInt, math.MaxInt}
+	return []int{-1, most + 1, -2, most + 2, -most - 1, math.MinInt, math.MaxInt}
 }
 
 // Promise 1: rows look the same from both ends.
