@@ -104,3 +104,16 @@ func cellAt(cells []int, place int) int {
 func within(n int, most int) bool {
 	return 0 <= n && n <= most
 }
+
+// allWithin reports whether there are 1..count numbers, each in 0..most.
+func allWithin(numbers []int, count int, most int) bool {
+	if len(numbers) < 1 || len(numbers) > count {
+		return false
+	}
+	for _, n := range numbers {
+		if !within(n, most) {
+			return false
+		}
+	}
+	return true
+}
