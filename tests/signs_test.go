@@ -47,16 +47,25 @@ func cellsOf(text string) []int {
 
 // sidesOf yields all rows of so many noughts and ones.
 func sidesOf(cells int) iter.Seq[[]int] {
+	return rowsWithin(cells, 1)
+}
+
+// rowsWithin yields all rows of so many numbers, each in 0..most.
+func rowsWithin(count, most int) iter.Seq[[]int] {
 	return func(yield func([]int) bool) {
-		for number := range 1 << cells {
-			row := make([]int, cells)
-			for place := range row {
-				row[place] = number % 2
-				number /= 2
-			}
-			if !yield(row) {
+		row := make([]int, count)
+		for {
+			if !yield(slices.Clone(row)) {
 				return
 			}
+			place := 0
+			for ; place < count && row[place] == most; place++ {
+				row[place] = 0
+			}
+			if place == count {
+				return
+			}
+			row[place]++
 		}
 	}
 }
@@ -96,12 +105,19 @@ func otherSides() [][]int {
 	for _, cells := range []int{impl.MaxSide + 1, impl.MaxSide + 2, 2 * impl.MaxSide, 31, 32, 33, 63, 64, 65, 1000} {
 		rows = append(rows, make([]int, cells), slices.Repeat([]int{1}, cells), slices.Repeat([]int{1, 0}, cells)[:cells])
 	}
-	for cells := 1; cells <= impl.MaxSide+1; cells++ {
-		for place := range cells {
-			for _, bad := range []int{-1, 2, -2, 3, 4, 48, 49, 256, 257, 1 << 32, 1<<32 + 1, math.MinInt, math.MinInt + 1, math.MaxInt - 1, math.MaxInt} {
-				for good := range 2 {
-					row := slices.Repeat([]int{good}, cells)
-					row[place] = bad
+	bad := []int{-1, 2, -2, 3, 4, 48, 49, 256, 257, 1 << 32, 1<<32 + 1, math.MinInt, math.MinInt + 1, math.MaxInt - 1, math.MaxInt}
+	return slices.Concat(rows, rowsWithOneBad(impl.MaxSide+1, []int{0, 1}, bad))
+}
+
+// rowsWithOneBad returns rows of 1..most numbers that are all one good number but for a bad one, at each place.
+func rowsWithOneBad(most int, good, bad []int) [][]int {
+	var rows [][]int
+	for count := 1; count <= most; count++ {
+		for place := range count {
+			for _, spoilt := range bad {
+				for _, other := range good {
+					row := slices.Repeat([]int{other}, count)
+					row[place] = spoilt
 					rows = append(rows, row)
 				}
 			}
@@ -198,10 +214,10 @@ func inMemory(row []int) (memory []int, there []int) {
 	return memory, memory[margin : margin+len(row)]
 }
 
-// checkNewRows holds that a call writes into no argument, and that the rows of its results share memory neither with an argument, nor with each other, nor with other results.
-func checkNewRows(t *testing.T, name string, call func([]int) [][]int) {
+// checkNewRows holds that a call writes into none of the rows, and that the rows of its results share memory neither with an argument, nor with each other, nor with other results.
+func checkNewRows(t *testing.T, name string, rows iter.Seq[[]int], call func([]int) [][]int) {
 	t.Helper()
-	for row := range everySide() {
+	for row := range rows {
 		memory, there := inMemory(row)
 		was := slices.Clone(memory)
 		result := call(there)
@@ -229,10 +245,14 @@ func checkNewRows(t *testing.T, name string, call func([]int) [][]int) {
 	}
 }
 
-// checkLeavesRows holds that a call writes into no row, be it a side or not.
-func checkLeavesRows(t *testing.T, name string, call func([]int)) {
+// sidesAndOthers returns rows, be they sides or not.
+func sidesAndOthers() [][]int {
+	return slices.Concat(slices.Collect(everySide()), otherSides())
+}
+
+// checkLeavesRows holds that a call writes into none of the rows.
+func checkLeavesRows(t *testing.T, name string, rows [][]int, call func([]int)) {
 	t.Helper()
-	rows := slices.Concat(slices.Collect(everySide()), otherSides())
 	for _, row := range rows {
 		memory, there := inMemory(row)
 		was := slices.Clone(memory)
@@ -276,7 +296,7 @@ func TestSideOkOthers(t *testing.T) {
 }
 
 func TestSideOkLeavesItsArgument(t *testing.T) {
-	checkLeavesRows(t, "SideOk", func(row []int) { impl.SideOk(row) })
+	checkLeavesRows(t, "SideOk", sidesAndOthers(), func(row []int) { impl.SideOk(row) })
 }
 
 // Promise 37: under sums stand sums.
@@ -338,8 +358,8 @@ func TestUnderOfOthers(t *testing.T) {
 }
 
 func TestUnderOfIsNewMemory(t *testing.T) {
-	checkNewRows(t, "UnderOf", func(row []int) [][]int { return [][]int{impl.UnderOf(row)} })
-	checkLeavesRows(t, "UnderOf", func(row []int) { impl.UnderOf(row) })
+	checkNewRows(t, "UnderOf", everySide(), func(row []int) [][]int { return [][]int{impl.UnderOf(row)} })
+	checkLeavesRows(t, "UnderOf", sidesAndOthers(), func(row []int) { impl.UnderOf(row) })
 }
 
 // Promise 38: triangles go down to one cell.
@@ -400,8 +420,8 @@ func TestRowsUnderOthers(t *testing.T) {
 }
 
 func TestRowsUnderIsNewMemory(t *testing.T) {
-	checkNewRows(t, "RowsUnder", impl.RowsUnder)
-	checkLeavesRows(t, "RowsUnder", func(row []int) { impl.RowsUnder(row) })
+	checkNewRows(t, "RowsUnder", everySide(), impl.RowsUnder)
+	checkLeavesRows(t, "RowsUnder", sidesAndOthers(), func(row []int) { impl.RowsUnder(row) })
 }
 
 // Promise 39: each side has as many ones.
@@ -465,7 +485,7 @@ func TestOnesInOthers(t *testing.T) {
 }
 
 func TestOnesInLeavesItsArgument(t *testing.T) {
-	checkLeavesRows(t, "OnesIn", func(row []int) { impl.OnesIn(row) })
+	checkLeavesRows(t, "OnesIn", sidesAndOthers(), func(row []int) { impl.OnesIn(row) })
 }
 
 // Promise 40: the triangle of sums tells the last cell.
@@ -511,7 +531,7 @@ func TestLastOfOthers(t *testing.T) {
 }
 
 func TestLastOfLeavesItsArgument(t *testing.T) {
-	checkLeavesRows(t, "LastOf", func(row []int) { impl.LastOf(row) })
+	checkLeavesRows(t, "LastOf", sidesAndOthers(), func(row []int) { impl.LastOf(row) })
 }
 
 // Promise 41: turned three times it is as before.
@@ -579,8 +599,8 @@ func TestTurnedOfOthers(t *testing.T) {
 }
 
 func TestTurnedOfIsNewMemory(t *testing.T) {
-	checkNewRows(t, "TurnedOf", func(row []int) [][]int { return [][]int{impl.TurnedOf(row)} })
-	checkLeavesRows(t, "TurnedOf", func(row []int) { impl.TurnedOf(row) })
+	checkNewRows(t, "TurnedOf", everySide(), func(row []int) [][]int { return [][]int{impl.TurnedOf(row)} })
+	checkLeavesRows(t, "TurnedOf", sidesAndOthers(), func(row []int) { impl.TurnedOf(row) })
 }
 
 // Promise 42: balanced triangles leave nothing or three by four.
